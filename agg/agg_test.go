@@ -56,6 +56,9 @@ func TestOf(t *testing.T) {
 			t.Error(c.v, got)
 		}
 	}
+	if got := agg.Of(null, num(7)); !same(got, agg.Part{Rows: 1, L: []agg.One{{}, one(1, wide.Of(7), num(7), num(7))}}) {
+		t.Error(got)
+	}
 	if got := agg.Of(); !same(got, agg.Part{Rows: 1}) {
 		t.Error(got)
 	}
@@ -107,6 +110,16 @@ func TestFinal(t *testing.T) {
 		}
 		if v, err := p.Final(expr.Count, 0); v != num(int64(len(c.l))) || err != api.OK {
 			t.Error("the first aggregate", v, err)
+		}
+	}
+}
+
+// P23.1: the first aggregate is not the number of rows.
+func TestCount(t *testing.T) {
+	p := agg.Plus(agg.Of(null, num(1)), agg.Of(num(3), num(2)))
+	for i, want := range map[int]int64{-1: 2, 0: 1, 1: 2} {
+		if v, err := p.Final(expr.Count, i); v != num(want) || err != api.OK {
+			t.Error(i, v, err)
 		}
 	}
 }

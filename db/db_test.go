@@ -139,6 +139,16 @@ func TestErrors(t *testing.T) {
 	} {
 		do(t, d, [2]string{c.s, fmt.Sprintf("error %d at 0", c.want)})
 	}
+	// Without rows, types matter all the same, and values do not.
+	for _, c := range []struct {
+		s    string
+		want api.Errno
+	}{
+		{"DELETE FROM u WHERE z", api.ErrName}, {"DELETE FROM u WHERE COUNT(*) = 1", api.ErrForm}, {"DELETE FROM u WHERE c", api.ErrType}, {"DELETE FROM u WHERE c + 1 = 1", api.ErrType}, {"UPDATE u SET c = z", api.ErrName}, {"UPDATE u SET c = MAX(c)", api.ErrForm}, {"UPDATE u SET c = 1", api.ErrType}, {"UPDATE u SET c = 'x' WHERE MIN(c) = 'x'", api.ErrForm}, {"UPDATE u SET c = 'x' WHERE 1 + 1", api.ErrType},
+	} {
+		do(t, d, [2]string{c.s, fmt.Sprintf("error %d at 0", c.want)})
+	}
+	do(t, d, [2]string{"DELETE FROM u WHERE 1 / 0 = 1", "0 false"}, [2]string{"UPDATE u SET c = NULL", "0 false"})
 	do(t, d, [2]string{"SELECT a FROM t WHERE a = ", "error 4 at 26"}, [2]string{"", "error 4 at 0"}, [2]string{strings.Repeat(" ", 2001), "error 3 at 0"}, [2]string{"CREATE TABLE x (a INT, b INT, c INT, d INT, e INT, f INT, g INT, h INT, i", "error 17 at 72"}, [2]string{"PROPAGATE 9223372036854775808", "error 8 at 10"})
 }
 

@@ -387,6 +387,25 @@ func TestMany(t *testing.T) {
 	}
 }
 
+// P11.1: however often nodes are opened, moved and dropped, there is room for more.
+func TestAgain(t *testing.T) {
+	tr := node.New()
+	open(t, tr, -1, -1, call(0, ""), 0)
+	open(t, tr, 0, -1, call(0, ""), 1)
+	open(t, tr, 0, 1, call(0, ""), 2)
+	for i := range 1 << 20 {
+		if n, ok := tr.Open(i%3, -1, call(1, "")); n != 3 || !ok {
+			t.Fatal("Open", i, n, ok)
+		}
+		if !tr.Move(1, []int{2, -1}[i%2]) || tr.Before(2, 1) != (i%2 == 0) || tr.Before(1, 2) == tr.Before(2, 1) {
+			t.Fatal("Move", i)
+		}
+		if len(tr.Drop(3)) != 1 || tr.Live() != 3 {
+			t.Fatal("Drop", i)
+		}
+	}
+}
+
 // P11.2: All can be ended early and begins anew each time.
 func TestAll(t *testing.T) {
 	nodes := small(t).All()

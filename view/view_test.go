@@ -311,6 +311,10 @@ func TestStale(t *testing.T) {
 	if _, err := v.Rows(); err != api.ErrStale {
 		t.Error(err)
 	}
+	v.Traced().Start(node.Call{})
+	if rows, err := v.Rows(); err != api.ErrStale || len(rows) != 0 {
+		t.Error("from a stopped view", rows, err)
+	}
 }
 
 // P26.1: errors of rows, which come and go.
@@ -334,6 +338,33 @@ func TestErrors(t *testing.T) {
 	w.take("u", num(1))
 	v.Propagate(100)
 	w.expect(v, "(0) (9223372036854775807)")
+}
+
+// P26.1: a node of a row that is gone comes to nothing, before those above it are run.
+func TestGone(t *testing.T) {
+	empty := fold.Pack(fold.Part{})
+	for _, c := range []struct {
+		s, table string
+		key      value.Value
+		call     node.Call
+	}{
+		{"SELECT a, c, COUNT(*) FROM t JOIN u ON n = m GROUP BY a, c", "u", num(8), node.Call{Kind: 4, Arg: pack.Pack("0", key(num(1)), key(num(8)))}},
+		{"SELECT a, c FROM t JOIN u ON n = m", "t", num(1), node.Call{Kind: 4, Arg: pack.Pack("0", key(num(1)), key(num(8)))}},
+		{"SELECT COUNT(*) FROM t", "t", num(1), node.Call{Kind: 3, Arg: pack.Pack("0", key(num(1)))}},
+	} {
+		w := newWorld(t)
+		w.put("t", of(num(1), text("x"), num(5)))
+		w.put("u", of(num(8), num(5)))
+		v := w.view(c.s)
+		if got := result(v, c.call); got == empty || got == "no such node" {
+			t.Error(c.s, got)
+		}
+		w.take(c.table, c.key)
+		v.Propagate(1)
+		if got := result(v, c.call); got != empty {
+			t.Errorf("%s: %q", c.s, got)
+		}
+	}
 }
 
 var queries = []string{
