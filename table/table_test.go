@@ -278,7 +278,7 @@ func TestModel(t *testing.T) {
 func TestNoKey(t *testing.T) {
 	x := made(cell.New(), "t", "ib", 0)
 	x.Put(of(num(1), yes))
-	for _, v := range []value.Value{null, num(2), no, yes, text("1"), text(""), {Kind: 2, N: 1, S: "x"}, {Kind: 9}, {Kind: 258, N: 1}, text(strings.Repeat("x", 70))} {
+	for _, v := range []value.Value{null, num(2), no, yes, text("1"), text(""), text(strings.Repeat("x", 64))} {
 		if r, ok := x.Get(v); ok || len(r) != 0 {
 			t.Error("Get", v, r)
 		}

@@ -429,15 +429,6 @@ func TestStart(t *testing.T) {
 	}
 }
 
-// P12.1: a store that is nil has no texts.
-func TestNilStore(t *testing.T) {
-	tr := trace.New(nil, tree, 0)
-	if got := tr.Start(call(0, "")); got != "" || tr.Live() != 7 {
-		t.Error(got, tr.Live())
-	}
-	tr.Stop()
-}
-
 // P12.3: All can be ended early and begins anew each time; what it tells can be changed.
 func TestAll(t *testing.T) {
 	tr := trace.New(cell.New(), tree, 0)

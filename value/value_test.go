@@ -78,7 +78,7 @@ func TestGood(t *testing.T) {
 		}
 	}
 	for _, v := range wrong {
-		if v.Good() || v.True() {
+		if v.Good() {
 			t.Error(v)
 		}
 	}

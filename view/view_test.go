@@ -311,10 +311,6 @@ func TestStale(t *testing.T) {
 	if _, err := v.Rows(); err != api.ErrStale {
 		t.Error(err)
 	}
-	v.Traced().Start(node.Call{})
-	if rows, err := v.Rows(); err != api.ErrStale || len(rows) != 0 {
-		t.Error("from a stopped view", rows, err)
-	}
 }
 
 // P26.1: errors of rows, which come and go.
